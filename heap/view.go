@@ -127,7 +127,12 @@ func (v View) mayStand(form, what int) bool {
 	if form == api.Bytes {
 		return 0 <= what && what <= mostByte
 	}
-	return word.Kind(what) == api.KindSmall || v.isNilOrThing(what)
+	return v.IsReference(what)
+}
+
+// IsReference tells whether o is small, nil, or the reference of a thing.
+func (v View) IsReference(o int) bool {
+	return word.Kind(o) == api.KindSmall || v.isNilOrThing(o)
 }
 
 // isNilOrThing tells whether o is nil or the reference of a thing.
