@@ -586,3 +586,68 @@ func TestAViewIsItsOwn(t *testing.T) {
 		t.Error(none, f)
 	}
 }
+
+func TestFrontAndRoom(t *testing.T) {
+	v, _ := See(heapOf(three()...))
+	if got := v.Front(); !slices.Equal(got, []int{0, 9}) {
+		t.Error(got)
+	}
+	trample(v.Front())
+	if got := v.Front(); !slices.Equal(got, []int{0, 9}) {
+		t.Error("the front is shared", got)
+	}
+	want := map[int]int{plainRef: 5, bytesRef: 6, weakRef: 4}
+	for _, o := range append(numbers(), plainRef, bytesRef, weakRef) {
+		if got := v.Room(o); got != want[o] {
+			t.Error(o, got, want[o])
+		}
+	}
+	none, _ := See(heapOf(0))
+	if len(none.Front()) != 0 || none.Room(4) != 0 || len((View{}).Front()) != 0 {
+		t.Error(none.Front(), none.Room(4))
+	}
+}
+
+// What is laid thing by thing is the heap again.
+func TestLaid(t *testing.T) {
+	d := dice(3)
+	for range 300 {
+		w := grown(&d)
+		v, _ := See(api.Heap{Words: w})
+		got := v.Front()
+		for _, o := range v.Things() {
+			x := v.Look(o)
+			laid := Laid(x)
+			trample(x.Slots)
+			if len(laid) != v.Room(o) {
+				t.Fatal(w, o, laid)
+			}
+			got = append(got, laid...)
+		}
+		if !slices.Equal(got, w) {
+			t.Fatal(w, got)
+		}
+	}
+}
+
+func TestTurned(t *testing.T) {
+	more := func(o int) int { return o + 100 }
+	for form := range 3 {
+		slots, same := guarded([]int{4, 0, 7})
+		got := Turned(api.Thing{Class: 6, Hash: 3, Form: form, Slots: slots.Words}, more)
+		want := []int{104, 100, 107}
+		if form == api.Bytes {
+			want = []int{4, 0, 7}
+		}
+		if got.Class != 106 || got.Hash != 3 || got.Form != form || !slices.Equal(got.Slots, want) {
+			t.Error(form, got)
+		}
+		trample(got.Slots)
+		if !same() {
+			t.Error("changed or shared", form, slots)
+		}
+	}
+	if got := TurnedAll(nil, more); len(got) != 0 {
+		t.Error(got)
+	}
+}
