@@ -651,3 +651,33 @@ func TestTurned(t *testing.T) {
 		t.Error(got)
 	}
 }
+
+// What is laid over again, with nobody left out and nothing turned, is the heap
+// again; else those alone that are asked for stand there, in that order.
+func TestRelaid(t *testing.T) {
+	d := dice(4)
+	same := func(o int) int { return o }
+	for range 300 {
+		w := grown(&d)
+		v, _ := See(api.Heap{Words: w})
+		h := v.Relaid(v.Things(), same)
+		if !slices.Equal(h.Words, w) {
+			t.Fatal(w, h)
+		}
+		trample(h.Words)
+		if again := v.Relaid(v.Things(), same); !slices.Equal(again.Words, w) {
+			t.Fatal("shared", w, again)
+		}
+	}
+	v, _ := See(heapOf(three()...))
+	none := func(o int) int { return 0 }
+	for _, c := range []struct{ things, want []int }{
+		{nil, []int{0, 9}},
+		{[]int{plainRef}, []int{0, 9, 0, 8, 8, 0, 0}},
+		{[]int{weakRef, bytesRef}, []int{0, 9, 0, 5, 6, 0, 0, 1, 13, 0, 200, 255}},
+	} {
+		if h := v.Relaid(c.things, none); !slices.Equal(h.Words, c.want) {
+			t.Error(c.things, h, c.want)
+		}
+	}
+}

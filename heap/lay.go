@@ -48,3 +48,13 @@ func TurnedAll(refs []int, turn func(o int) int) []int {
 	}
 	return out
 }
+
+// Relaid answers the heap of those things of v alone, one behind the other, as
+// turn makes each of them. What turn answers must fit where they stand then.
+func (v View) Relaid(things []int, turn func(o int) int) api.Heap {
+	words := v.Front()
+	for _, o := range things {
+		words = append(words, Laid(Turned(v.Look(o), turn))...)
+	}
+	return api.Heap{Words: words}
+}
