@@ -681,3 +681,34 @@ func TestRelaid(t *testing.T) {
 		}
 	}
 }
+
+// A text that is laid is there again, and what New refuses is refused.
+func TestTexts(t *testing.T) {
+	for _, text := range []string{"", "a", "\x00\x7f\x80\xff", "long enough for some words", string(make([]byte, maxSize))} {
+		h, same := guarded(three())
+		k, o, e := NewText(h, text)
+		want, ref, _ := New(h, 0, api.Bytes, len(text))
+		if e != api.OK || o != ref || len(k.Words) != len(want.Words) || Check(k) != (api.Fault{}) || !same() {
+			t.Errorf("%q: %v %d %v", text, k, o, e)
+		}
+		x, _ := Look(k, o)
+		if x.Class != 0 || x.Form != api.Bytes || Text(x) != text || !slices.Equal(k.Words[2:len(three())], three()[2:]) {
+			t.Errorf("%q: %v", text, k)
+		}
+	}
+	refused := map[string]struct {
+		h    api.Heap
+		text string
+		want api.Errno
+	}{
+		"heap": {heapOf(0), "a", api.ErrHeap},
+		"size": {heapOf(0, 1), string(make([]byte, maxSize+1)), api.ErrRange},
+		"room": {heapOf(full(maxWords - 3)...), "a", api.ErrFull},
+		"hash": {heapOf(0, maxHash+1), "", api.ErrFull},
+	}
+	for name, c := range refused {
+		if k, o, e := NewText(c.h, c.text); e != c.want || o != 0 || len(k.Words) != 0 {
+			t.Error(name, k, o, e)
+		}
+	}
+}
