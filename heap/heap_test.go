@@ -712,3 +712,75 @@ func TestTexts(t *testing.T) {
 		}
 	}
 }
+
+// A view that is changed is what New and Put answer one after the other; what
+// they refuse is refused, and changes nothing.
+func TestAViewIsChanged(t *testing.T) {
+	d := dice(13)
+	for range 60 {
+		h, same := guarded(grown(&d))
+		v, _ := See(h)
+		now := api.Heap{Words: slices.Clone(h.Words)}
+		for range 40 {
+			now = changedOnce(t, &d, &v, now)
+			if got := v.Heap(); !slices.Equal(got.Words, now.Words) || v.Words() != len(now.Words) {
+				t.Fatal(got, now, v.Words())
+			}
+		}
+		trample(v.Heap().Words)
+		if want, _ := Things(now); !slices.Equal(v.Things(), want) || !slices.Equal(v.Heap().Words, now.Words) || !same() {
+			t.Fatal(now, v)
+		}
+	}
+}
+
+// changedOnce changes v as it changes h, and answers that.
+func changedOnce(t *testing.T, d *dice, v *View, h api.Heap) api.Heap {
+	t.Helper()
+	o, what := 2*d.below(len(h.Words)+2), d.below(2*len(h.Words)+8)
+	if d.below(2) == 0 {
+		at := d.below(6) - 1
+		k, e := Put(h, o, at, what)
+		if got := v.Put(o, at, what); got != e {
+			t.Fatal(h, o, at, what, got, e)
+		} else if e == api.OK {
+			return k
+		}
+		return h
+	}
+	form, size := d.below(4), d.below(63)-1
+	k, ref, e := New(h, o, form, size)
+	got, is := v.Add(o, form, size)
+	if got != ref || is != e {
+		t.Fatal(h, o, form, size, got, is, ref, e)
+	}
+	if e != api.OK {
+		return h
+	}
+	return k
+}
+
+func TestAViewThatIsFull(t *testing.T) {
+	v, _ := See(heapOf(full(maxWords - 4)...))
+	for _, c := range []struct {
+		size int
+		want api.Errno
+	}{{2, api.ErrFull}, {1, api.OK}, {0, api.ErrFull}} {
+		if _, e := v.Add(0, api.Plain, c.size); e != c.want {
+			t.Error(c.size, e)
+		}
+	}
+	if v.Words() != maxWords || Check(v.Heap()) != (api.Fault{}) {
+		t.Error(v.Words())
+	}
+	for size := range maxSize + 1 {
+		v, _ := See(heapOf(0, 1))
+		if o, e := v.Add(0, api.Plain, size); e != api.OK || v.Room(o) != Takes(size) || v.Words() != 2+Takes(size) {
+			t.Error(size, o, e)
+		}
+	}
+	none, _ := See(heapOf(0))
+	if o, e := none.Add(0, api.Plain, 0); o != 0 || e != api.ErrHeap || none.Put(4, 0, 0) != api.ErrKind || none.Words() != 0 || len(none.Heap().Words) != 0 {
+		t.Error(o, e)
+	}
+}

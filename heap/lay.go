@@ -18,7 +18,7 @@ func (v View) Room(o int) int {
 	if !v.Has(o) {
 		return 0
 	}
-	return headWords + v.begins[o/2]
+	return Takes(v.begins[o/2])
 }
 
 // Laid answers the words of x, as they stand on a heap.

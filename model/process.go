@@ -36,14 +36,16 @@ func (p *process) goOn() {
 // stop lets the process stop ahead of that mark.
 func (p *process) stop(mark step) { p.next, p.stopped = mark, true }
 
-func (p *process) hasEnded() bool { return p.next == nil }
+// HasEnded tells whether p has done its block.
+func (p *process) HasEnded() bool { return p.next == nil }
 
-func (p *process) isAble() bool {
-	if p.waits {
-		g := p.gate(p.values[len(p.values)-1])
-		return g == nil || g.count > 0
+// IsAble tells whether p, which has not ended, can do its mark.
+func (p *process) IsAble() bool {
+	if !p.waits {
+		return true
 	}
-	return !p.hasEnded()
+	g := p.gate(p.values[len(p.values)-1])
+	return g == nil || g.count > 0
 }
 
 func (p *process) push(v value) { p.values = append(p.values, v) }
