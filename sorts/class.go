@@ -17,6 +17,7 @@ type class struct {
 
 // method is one of a class. Its sets have numbers.
 type method struct {
+	number       int // from 1 on, as they stand
 	name         string
 	many         int // how many names stand in parentheses
 	names        int // the set of the first of them; those of the others follow
@@ -46,8 +47,9 @@ func (r *ruler) class(n api.Node) {
 
 // methodOf answers the method of that node, with sets for all that it has.
 func (r *ruler) methodOf(n api.Node) *method {
-	m := &method{name: n.Text, many: n.Num, names: r.fresh(n.Num), self: r.fresh(1), answer: r.fresh(1)}
+	m := &method{number: len(r.calls), name: n.Text, many: n.Num, names: r.fresh(n.Num), self: r.fresh(1), answer: r.fresh(1)}
 	r.give(m.answer, of(api.SortNil))
+	r.calls = append(r.calls, nil)
 	return m
 }
 

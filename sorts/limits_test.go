@@ -9,7 +9,7 @@ import (
 	"gesso/api"
 )
 
-// refused asks that both calls answer that fault, and nothing else.
+// refused asks that all calls answer that fault, and nothing else.
 func refused(t *testing.T, text string, code api.Errno, at int) {
 	t.Helper()
 	want := api.Fault{Code: code, At: at}
@@ -18,6 +18,9 @@ func refused(t *testing.T, text string, code api.Errno, at int) {
 	}
 	if is, f := Safe(text); f != want || is {
 		t.Errorf("%q: %v %v, want %v", short(text), is, f, want)
+	}
+	if all, f := Calls(text); f != want || len(all) != 0 {
+		t.Errorf("%q: %v %v, want %v", short(text), all, f, want)
 	}
 }
 

@@ -253,20 +253,57 @@ func (s *said) isSafe() bool {
 	return true
 }
 
-// agreed asks that Tell and Safe answer what is said over again, or the fault of
-// check.Check and nothing else; it answers what Safe does, and whether text is a
-// program.
+// calls answers who can call whom: of main's block, then of each method, the
+// numbers of the methods, the first one 1.
+func (s *said) calls() [][]int {
+	callers := []*tree{nil}
+	for _, t := range s.nodes {
+		if t.Kind == api.NMethod {
+			callers = append(callers, t)
+		}
+	}
+	all := make([][]int, len(callers))
+	for i, caller := range callers {
+		for k, m := range callers[1:] {
+			if slices.ContainsFunc(s.nodes, func(t *tree) bool { return t.isIn(caller) && s.finds(t, m) }) {
+				all[i] = append(all[i], k+1)
+			}
+		}
+	}
+	return all
+}
+
+// isIn tells whether t stands in that method; in none, if it is nil.
+func (t *tree) isIn(method *tree) bool {
+	for ; t != nil; t = t.up {
+		if t.Kind == api.NMethod {
+			return t == method
+		}
+	}
+	return method == nil
+}
+
+// finds tells whether t is a call by which that method is found.
+func (s *said) finds(t, method *tree) bool {
+	return t.Kind == api.NCall && t.Text == method.Text && slices.ContainsFunc(s.expr(t.kids[0]), func(sort int) bool {
+		return s.found(sort, t.Text, len(t.kids)-1) == method
+	})
+}
+
+// agreed asks that Tell, Safe and Calls answer what is said over again, or the
+// fault of check.Check and nothing else; it answers what Safe does, and whether
+// text is a program.
 func agreed(t *testing.T, text string) (isSafe, is bool) {
 	t.Helper()
 	n, fault := check.Check(text)
-	var want [][]int
+	var want, wantCalls [][]int
 	wantSafe := false
 	if fault.Code == api.OK {
 		s := saidOver(n)
 		for _, node := range s.nodes {
 			want = append(want, s.expr(node))
 		}
-		wantSafe = s.isSafe()
+		wantSafe, wantCalls = s.isSafe(), s.calls()
 	}
 	all, f := Tell(text)
 	if f != fault || !slices.EqualFunc(all, want, slices.Equal) {
@@ -275,6 +312,9 @@ func agreed(t *testing.T, text string) (isSafe, is bool) {
 	isSafe, f = Safe(text)
 	if f != fault || isSafe != wantSafe {
 		t.Fatalf("%q: %v %v, want %v %v", text, isSafe, f, wantSafe, fault)
+	}
+	if calls, f := Calls(text); f != fault || !slices.EqualFunc(calls, wantCalls, slices.Equal) {
+		t.Fatalf("%q: %v %v, want %v %v", text, calls, f, wantCalls, fault)
 	}
 	return isSafe, fault.Code == api.OK
 }

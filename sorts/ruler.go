@@ -14,6 +14,7 @@ type ruler struct {
 	classes []*class
 	next    int           // the number of the node that comes next
 	asked   []func() bool // a program is safe, if all of them answer true
+	calls   [][]int       // of main's block, then of each method by its number: those that are found there
 	place
 }
 
@@ -34,6 +35,7 @@ func (r *ruler) program(n api.Node) {
 	last := len(n.Kids) - 1
 	classes, main := n.Kids[:last], n.Kids[last]
 	r.fresh(countOf(n))
+	r.calls = [][]int{nil}
 	for _, class := range classes {
 		r.class(class)
 	}
@@ -155,6 +157,14 @@ func (r *ruler) ask(n api.Node, kids []int) {
 	}
 }
 
+// caller answers the number of the method around, 0 in main's block.
+func (p place) caller() int {
+	if p.method == nil {
+		return 0
+	}
+	return p.method.number
+}
+
 // local answers the set of the innermost local of that name; false, if there is
 // none.
 func (p place) local(name string) (int, bool) {
@@ -197,11 +207,13 @@ func (r *ruler) eachSlot(name string, do func(slot int)) {
 
 // call lays what is to hold of all methods that can be found.
 func (r *ruler) call(name string, at, ahead int, exprs []int) {
+	caller := r.caller()
 	r.each(ahead, func(sort int) {
 		m := r.find(sort, name, len(exprs))
 		if m == nil {
 			return
 		}
+		r.calls[caller] = append(r.calls[caller], m.number)
 		r.give(m.self, of(sort))
 		for i, expr := range exprs {
 			r.flow(expr, m.names+i)

@@ -174,13 +174,17 @@ func TestNodesOfTextsThatAreTooLong(t *testing.T) {
 		"main{return nil;return self;return gate;return 12;@.b(self);}", "main{-a--b*!@;}", "class a{slot @;}main{}", "class a{to @(){}}main{}",
 		"class a{to f(x,@){}}main{}", "main{a.@(1);}",
 	} {
-		n, f := Parse(strings.Replace(text, "@", times("x", maxText-len(text)+1), 1))
+		whole := strings.Replace(text, "@", times("x", maxText-len(text)+1), 1)
+		n, f := Parse(whole)
 		if f != (api.Fault{}) {
 			t.Errorf("%q: %v", text, f)
 			continue
 		}
 		if s, f := Print(n); f != (api.Fault{}) || len(s) <= maxText {
 			t.Errorf("%q: Print: %d bytes %v", text, len(s), f)
+		}
+		if s, f := Shortest(n); f != (api.Fault{}) || s != whole {
+			t.Errorf("%q: Shortest: %d bytes %v", text, len(s), f)
 		}
 		unprinted(t, longer(n))
 	}

@@ -349,6 +349,7 @@ func TestParseOfPrint(t *testing.T) {
 		if f != (api.Fault{}) || text != strings.Join(strings.Fields(text), " ")+"\n" {
 			t.Fatalf("%s: %q %v", shown(n), text, f)
 		}
+		shortened(t, n, text)
 		if len(text) > maxText {
 			continue
 		}

@@ -92,13 +92,34 @@ func printed(t *testing.T, n api.Node, want string) {
 	if got, f := Print(n); f != (api.Fault{}) || got != want {
 		t.Errorf("%s: %q %v, want %q", short(shown(n)), short(got), f, short(want))
 	}
+	shortened(t, n, want)
 }
 
-// unprinted asks that Print answers ErrForm, and nothing else.
+// shortened asks that Shortest answers the tokens of that print, with a blank
+// only where two would run together, and that they are parsed as the same node.
+func shortened(t *testing.T, n api.Node, print string) {
+	t.Helper()
+	text, f := Shortest(n)
+	if f != (api.Fault{}) || strings.ReplaceAll(text, " ", "") != strings.Join(strings.Fields(print), "") {
+		t.Errorf("%q: %q %v", short(print), short(text), f)
+	}
+	for i := range len(text) {
+		if text[i] == ' ' && (i == 0 || i == len(text)-1 || strings.ContainsAny(text[i-1:i]+text[i+1:i+2], " =+-*<!.,;:(){}")) {
+			t.Errorf("%q: the blank at %d", text, i)
+		}
+	}
+	if m, f := Parse(text); f != (api.Fault{}) || shown(m) != shown(n) {
+		t.Errorf("%q: %v", short(text), f)
+	}
+}
+
+// unprinted asks that Print and Shortest answer ErrForm, and nothing else.
 func unprinted(t *testing.T, n api.Node) {
 	t.Helper()
-	if got, f := Print(n); f != (api.Fault{Code: api.ErrForm}) || got != "" {
-		t.Errorf("%d %q %d, %d kids: %q %v", n.Kind, short(n.Text), n.Num, len(n.Kids), short(got), f)
+	for _, call := range []func(api.Node) (string, api.Fault){Print, Shortest} {
+		if got, f := call(n); f != (api.Fault{Code: api.ErrForm}) || got != "" {
+			t.Errorf("%d %q %d, %d kids: %q %v", n.Kind, short(n.Text), n.Num, len(n.Kids), short(got), f)
+		}
 	}
 }
 
