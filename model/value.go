@@ -29,6 +29,36 @@ func number(n int64) (value, bool) {
 	return value{isNumber, int(n)}, true
 }
 
+// Reckon answers what comes of those numbers by an expression of that kind; 0
+// and false, if it falls, or if there is no such expression of so many.
+func Reckon(kind int, numbers ...int) (int, bool) {
+	if many := operands(kind); many == 0 || many != len(numbers) {
+		return 0, false
+	}
+	all := make([]value, len(numbers))
+	for i, n := range numbers {
+		v, is := number(int64(n))
+		if !is {
+			return 0, false
+		}
+		all[i] = v
+	}
+	v, is := reckoned(kind, all)
+	return v.num, is
+}
+
+// operands answers how many values an expression of that kind reckons with; 0,
+// if it is none that does.
+func operands(kind int) int {
+	switch kind {
+	case api.NAdd, api.NSub, api.NMul, api.NLess, api.NSame:
+		return 2
+	case api.NNeg, api.NNot:
+		return 1
+	}
+	return 0
+}
+
 // reckoned answers what comes of one or two values by an expression of that
 // kind; false, if it falls.
 func reckoned(kind int, all []value) (value, bool) {
